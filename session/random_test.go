@@ -1,6 +1,7 @@
 package session
 
 import (
+	"reflect"
 	"slices"
 	"strconv"
 	"strings"
@@ -522,8 +523,9 @@ func TestMadeUp(t *testing.T) { // W1, P21.1, P21.2, P23.1, P25.5, P27.5
 			t.Fatalf("seed %d, tight: %s\n%v, not %v", seed, src, tight, want)
 		}
 		again(t, d)
-		if print.Program(p) == "" {
-			t.Fatal("print")
+		l, _, _ = token.Scan([]byte(print.Program(p)))
+		if q, _, e := syntax.Parse(l); e != api.OK || !reflect.DeepEqual(p, q) {
+			t.Fatalf("seed %d: its text is not read as it", seed)
 		}
 	}
 	if ran < 400 {
