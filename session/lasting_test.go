@@ -45,7 +45,6 @@ func (w *writer) part() string {
 
 // TestCut runs programs one behind the other, and as one.
 func TestCut(t *testing.T) { // W5
-	ran := 0
 	for seed := range uint32(60) {
 		w := &writer{seed: seed * 104729}
 		d, s := booted(t, 300)
@@ -59,9 +58,6 @@ func TestCut(t *testing.T) { // W5
 			all += src
 			acts := []api.Act{{After: w.next(300), Kind: api.ActCollect, N: 1 + w.next(20)}, {After: w.next(500), Kind: api.ActEvict, N: w.next(9)}, {After: w.next(900), Kind: api.ActCollect, N: 1 + w.next(90)}}
 			got := s.Run([]byte(lastingRoots+src), api.World{Fuel: 1 << 20, Memory: 4000, Acts: acts})
-			if got.End == api.EndFront {
-				break
-			}
 			if got.End != api.EndDone {
 				t.Fatalf("seed %d: %v", seed, got)
 			}
@@ -77,16 +73,9 @@ func TestCut(t *testing.T) { // W5
 		}
 		_, s = booted(t, 300)
 		got := s.Run([]byte(all), api.World{Fuel: 1 << 22, Memory: 1 << 16})
-		if got.End == api.EndFront {
-			continue // a pattern is of no use
-		}
-		ran++
 		if !slices.Equal(got.Lines, lines) {
 			t.Fatalf("seed %d: %s\n%q, not %q", seed, all, lines, got.Lines)
 		}
-	}
-	if ran < 30 {
-		t.Error("too few were run:", ran)
 	}
 }
 
@@ -114,7 +103,7 @@ func TestPowerAnywhere(t *testing.T) { // W2
 		d.Arm(1 + w.next(120))
 		got := s.Run([]byte(src), api.World{Fuel: 1 << 20, Memory: 4000, Acts: acts})
 		if got.End == api.EndFront {
-			continue
+			t.Fatal(got)
 		}
 		if got.End == api.EndDone {
 			for !d.Dead() {

@@ -327,16 +327,23 @@ func (w *writer) name() string {
 	return "v" + strconv.Itoa(w.count)
 }
 
-// with is what is made up while a name is bound, and hides those of its name.
-func (w *writer) with(name string, ty int, make func() string) string {
+// hiding is what is made up while those of a name are hidden.
+func (w *writer) hiding(name string, make func() string) string {
 	saved := w.bound
 	for i := range w.bound {
 		w.bound[i] = slices.DeleteFunc(slices.Clone(w.bound[i]), func(s string) bool { return s == name })
 	}
-	w.bound[ty] = append(w.bound[ty], name)
 	out := make()
 	w.bound = saved
 	return out
+}
+
+// with is what is made up while a name is bound, and hides those of its name.
+func (w *writer) with(name string, ty int, make func() string) string {
+	return w.hiding(name, func() string {
+		w.bound[ty] = append(w.bound[ty], name)
+		return make()
+	})
 }
 
 // exp makes up an expression of a type.
@@ -367,12 +374,11 @@ func (w *writer) exp(ty, deep int) string {
 			}
 		case 8:
 			n, m := w.name(), w.name()
-			f := "let fun " + n + " " + m + " = if " + m + " <= 0 then "
-			f += w.with(m, aNumber, func() string { return sub(aNumber) }) + " else 1 + " + n + " (" + m + " - 1) "
-			if n == m {
-				return sub(ty)
+			if n != m {
+				return "let fun " + n + " " + m + " = if " + m + " <= 0 then " +
+					w.hiding(n, func() string { return w.with(m, aNumber, func() string { return sub(aNumber) }) }) +
+					" else 1 + " + n + " (" + m + " - 1); in " + w.hiding(n, func() string { return sub(ty) }) + " end"
 			}
-			return f + "; in " + w.with(n, types-1, func() string { w.bound[types-1] = w.bound[types-1][:len(w.bound[types-1])-1]; return sub(ty) }) + " end"
 		case 9:
 			n, m := w.name(), w.name()
 			if n != m {
@@ -411,22 +417,22 @@ func (w *writer) own(ty, deep int) string {
 		if least {
 			return w.pick("0", "1", "~3", "7", "4611686018427387903", "2")
 		}
-		return w.pick("("+sub(aNumber)+" "+w.pick("+", "-", "*", "div", "mod")+" "+sub(aNumber)+")", "(~"+sub(aNumber)+")", "size ("+sub(aText)+")", "(!"+sub(aCell)+")", "get ("+sub(aRow)+", "+sub(aNumber)+")", "("+sub(aFun)+") ("+sub(aNumber)+")", "len "+sub(aRow))
+		return w.pick("("+sub(aNumber)+" "+w.pick("+", "-", "*", "div", "mod")+" "+sub(aNumber)+")", "(~"+sub(aNumber)+")", "(size ("+sub(aText)+"))", "(!"+sub(aCell)+")", "(get ("+sub(aRow)+", "+sub(aNumber)+"))", "(("+sub(aFun)+") ("+sub(aNumber)+"))", "(len "+sub(aRow)+")")
 	case aTruth:
 		if least {
 			return w.pick("true", "false")
 		}
-		return w.pick("("+sub(aNumber)+" "+w.pick("<", "<=", ">", ">=", "=", "<>")+" "+sub(aNumber)+")", "not ("+sub(aTruth)+")", "same ("+sub(aText)+", "+sub(aText)+")")
+		return w.pick("("+sub(aNumber)+" "+w.pick("<", "<=", ">", ">=", "=", "<>")+" "+sub(aNumber)+")", "(not ("+sub(aTruth)+"))", "(same ("+sub(aText)+", "+sub(aText)+"))")
 	case aText:
 		if least {
 			return w.pick("\"\"", "\"a\"", "\"b\\n\"")
 		}
-		return w.pick("itos ("+sub(aNumber)+")", "("+sub(aText)+" ^ "+sub(aText)+")")
+		return w.pick("(itos ("+sub(aNumber)+"))", "("+sub(aText)+" ^ "+sub(aText)+")")
 	case aUnit:
 		if least {
 			return "()"
 		}
-		return w.pick("print ("+sub(aText)+")", "("+sub(aCell)+" := "+sub(aNumber)+")", "put ("+sub(aRow)+", "+sub(aNumber)+", "+sub(aNumber)+")", "print (itos ("+sub(aNumber)+"))", "commit "+sub(aUnit))
+		return w.pick("(print ("+sub(aText)+"))", "("+sub(aCell)+" := "+sub(aNumber)+")", "(put ("+sub(aRow)+", "+sub(aNumber)+", "+sub(aNumber)+"))", "(print (itos ("+sub(aNumber)+")))", "(commit "+sub(aUnit)+")")
 	case aCell:
 		return "(ref (" + sub(aNumber) + "))"
 	case aRow:
@@ -502,13 +508,9 @@ func TestMadeUp(t *testing.T) { // W1, P21.1, P21.2, P23.1, P25.5, P27.5
 		}
 		d, s := booted(t, 200)
 		got := s.Run([]byte(src), api.World{Fuel: 1 << 21, Memory: 1 << 18})
-		if got.End == api.EndFront {
-			if got.Err != api.ErrCover && got.Err != api.ErrType {
-				t.Fatalf("%d: %s", got.Err, src)
-			}
-			continue
+		if ran++; got.End == api.EndFront {
+			t.Fatalf("seed %d: %d: %s", seed, got.Err, src)
 		}
-		ran++
 		want := (&straight{}).run(p)
 		if got.End != want.End || got.Text != want.Text || !slices.Equal(got.Lines, want.Lines) {
 			t.Fatalf("seed %d: %s\n%v, not %v", seed, src, got, want)
@@ -528,7 +530,7 @@ func TestMadeUp(t *testing.T) { // W1, P21.1, P21.2, P23.1, P25.5, P27.5
 			t.Fatalf("seed %d: its text is not read as it", seed)
 		}
 	}
-	if ran < 400 {
+	if ran < 800 {
 		t.Error("too few may be run:", ran)
 	}
 }
