@@ -154,6 +154,7 @@ func TestFault(t *testing.T) { // P26.2
 	is(t, "Fault", Fault(h, s, 1), api.ErrNone)
 	d.Off()
 	is(t, "Fault", Fault(h, s, 1), api.ErrPower)
+	is(t, "power ahead of the handle", Fault(h, s, 99), api.ErrPower)
 }
 
 // graph tells what a root is made of: each object by the order in which it is come to.
@@ -290,9 +291,8 @@ func TestErrors(t *testing.T) { // P26.3
 	}
 	s.Free(2)
 	is(t, "Turned", Commit(h, s, nil), api.ErrState)
-	s.Abort()
 	d.Off()
-	is(t, "power", Commit(h, s, nil), api.ErrPower)
+	is(t, "power ahead of Turned", Commit(h, s, nil), api.ErrPower)
 }
 
 func TestMany(t *testing.T) { // P26.3: more objects than there are oids

@@ -154,6 +154,15 @@ func TestBoot(t *testing.T) { // P27.1, P27.4
 	if _, e := s.Collect(1); e != api.ErrPower {
 		t.Error("off")
 	}
+	if _, e := s.Collect(0); e != api.ErrArg {
+		t.Error("off, and no units")
+	}
+	d, s = booted(t, 100)
+	d.Arm(2)
+	s.Run([]byte(counter), plenty)
+	if yes, e := s.Collect(1); yes || e != api.ErrPower {
+		t.Error("behind a commit in which the power went", e)
+	}
 }
 
 func TestSamples(t *testing.T) { // P27.5, W1
