@@ -53,11 +53,11 @@ func (b *Book) tooGreat(t api.Ty) bool {
 
 // apply is a type that is not too great, applied.
 func (b *Book) apply(t api.Ty) api.Ty {
-	return through(t, func(v api.Ty) api.Ty {
-		if to := b.bound[v.Num]; to != nil {
-			return b.apply(*to)
+	return through(t, func(num int) (api.Ty, bool) {
+		if to := b.bound[num]; to != nil {
+			return b.apply(*to), true
 		}
-		return v
+		return api.Ty{}, false
 	})
 }
 
@@ -67,7 +67,7 @@ func (b *Book) Apply(t api.Ty) api.Ty {
 	case b == nil:
 		return api.Ty{}
 	case !b.knows(t):
-		return through(t, itself)
+		return through(t, stays)
 	case b.tooGreat(t):
 		return api.Ty{}
 	}

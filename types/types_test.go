@@ -82,6 +82,47 @@ func TestWords(t *testing.T) { // P17.1
 	}
 }
 
+// varOf is an unknown with kids, which no type that may be has.
+func varOf(num int, l ...api.Ty) api.Ty { return api.Ty{Kind: api.TyVar, Num: num, Kids: l} }
+
+func TestPutInAny(t *testing.T) { // P17.1, of types that may not be
+	l := []api.Ty{integer, varOf(0, v(1), varOf(5, v(0)))}
+	odd := func(k api.Ty) api.Ty {
+		return api.Ty{Kind: 9, Name: "n", Num: 1, Kids: []api.Ty{k, {Kind: api.TyFun, Num: 2, Kids: []api.Ty{k}}}}
+	}
+	for _, c := range []struct{ in, want api.Ty }{
+		{varOf(2, v(0)), varOf(2, integer)},
+		{varOf(-1, v(0), v(2)), varOf(-1, integer, v(2))},
+		{varOf(3, tuple(str, v(0))), varOf(3, tuple(str, integer))},
+		{varOf(2, varOf(7, varOf(4, v(0), v(1)))), varOf(2, varOf(7, varOf(4, integer, l[1])))},
+		{varOf(0, v(1)), integer},
+		{varOf(1, v(0)), l[1]},
+		{con("a", varOf(0, v(2)), varOf(2, con("b", v(0)))), con("a", integer, varOf(2, con("b", integer)))},
+		{api.Ty{Kind: api.TyVar, Name: "'a", Num: 2, Kids: []api.Ty{v(0)}}, api.Ty{Kind: api.TyVar, Name: "'a", Num: 2, Kids: []api.Ty{integer}}},
+		{api.Ty{Kind: api.TyVar, Name: "'a"}, integer},
+		{odd(v(0)), odd(integer)},
+		{odd(varOf(2, v(1))), odd(varOf(2, l[1]))},
+		{api.Ty{}, api.Ty{}},
+	} {
+		same(t, Put(c.in, l), c.want)
+		same(t, Put(c.in, nil), c.in)
+	}
+}
+
+func TestPutIsNew(t *testing.T) { // P17.1, R3
+	in := func() api.Ty { return varOf(2, varOf(1, str), v(0), v(0)) }
+	put := func() []api.Ty { return []api.Ty{varOf(3, integer)} }
+	x, l := in(), put()
+	got := Put(x, l)
+	same(t, got, varOf(2, varOf(1, str), varOf(3, integer), varOf(3, integer)))
+	got.Kids[0].Kids[0] = v(8)
+	got.Kids[1].Kids[0] = v(9)
+	same(t, got.Kids[2], varOf(3, integer))
+	got.Kids[2] = v(7)
+	same(t, x, in())
+	same(t, l[0], put()[0])
+}
+
 func TestFresh(t *testing.T) { // P17.1
 	b := New()
 	same(t, b.Fresh(), v(0))
@@ -176,7 +217,7 @@ func TestGreat(t *testing.T) { // P17.2, P17.3
 func TestApply(t *testing.T) { // P17.2
 	b := book(2)
 	b.Unify(v(0), con("a", v(1)))
-	for _, x := range append(wrong, v(2), tuple(v(0), v(2))) {
+	for _, x := range append(wrong, v(2), tuple(v(0), v(2)), varOf(1, v(0)), con("a", varOf(2, con("b", v(0))))) {
 		same(t, b.Apply(x), x)
 		if b.Free(x) != nil {
 			t.Errorf("Free(%v)", x)
