@@ -64,6 +64,44 @@ func TestWrong(t *testing.T) { // P19.1
 	}
 }
 
+// A variable comes to nothing, whatever its kids are, and wherever it stands.
+func TestVariableWithKids(t *testing.T) { // P19.1
+	con := func(name string, kids ...api.Ty) api.Ty { return api.Ty{Kind: api.TyCon, Name: name, Kids: kids} }
+	data := func(name string, vars []string, ty api.Ty) api.Dec {
+		return api.Dec{Kind: api.DecData, Name: name, Vars: vars, Cons: []api.Con{{Name: "A", Has: true, Ty: ty}}}
+	}
+	one := []string{"'a"}
+	arrow := api.Ty{Kind: api.TyFun, Kids: []api.Ty{con("int"), con("z")}}
+	z, y := data("z", nil, con("int")), data("y", nil, con("int"))
+	for _, kids := range [][]api.Ty{{con("z")}, {con("int"), con("z")}, {arrow}, {con("ref", con("z"))}, {{Kind: api.TyTuple, Kids: []api.Ty{con("z"), con("z")}}}, {{Kind: api.TyVar, Name: "'b", Kids: []api.Ty{con("z")}}}, {con("d", con("z"), con("z"))}} {
+		v := api.Ty{Kind: api.TyVar, Name: "'a", Kids: kids}
+		pair := api.Ty{Kind: api.TyTuple, Kids: []api.Ty{con("ref", v), con("y"), v}}
+		for _, datas := range [][]api.Dec{{}, {z}} {
+			for _, c := range []struct {
+				d    api.Dec
+				want string
+			}{
+				{data("d", one, v), "int d; datatype 'a d = A of 'a"},
+				{data("d", one, con("ref", v)), "int d; datatype 'a d = A of 'a ref"},
+				{data("d", one, pair), "int d; datatype 'a d = A of 'a ref * y * 'a; datatype y = A of int"},
+			} {
+				if got, e := Text(con("d", con("int")), append([]api.Dec{c.d, y}, datas...)); got != c.want || e != api.OK {
+					t.Errorf("%v: %q, %d, not %q", kids, got, e, c.want)
+				}
+			}
+		}
+		if got, e := Text(con("d", con("int")), []api.Dec{data("d", []string{"'b"}, v), z}); got != "" || e != api.ErrType {
+			t.Errorf("%v, not of the variables: %q, %d", kids, got, e)
+		}
+	}
+	v := api.Ty{Kind: api.TyVar, Name: "'a", Kids: []api.Ty{con("z")}}
+	both := api.Ty{Kind: api.TyTuple, Kids: []api.Ty{v, con("z")}}
+	want := "int d; datatype 'a d = A of 'a * z; datatype z = A of int"
+	if got, e := Text(con("d", con("int")), []api.Dec{data("d", one, both), z}); got != want || e != api.OK {
+		t.Errorf("beside the variable: %q, %d, not %q", got, e, want)
+	}
+}
+
 func TestDeep(t *testing.T) { // P19.1
 	name := strings.Repeat("T", 32)
 	long := func(n int) string { // a text of 200 bytes and n more
